@@ -768,9 +768,9 @@ func TestNoTwoPlacesAreShared(t *testing.T) {
 	for what, f := range calls(handed()) {
 		y, e := f()
 		must(t, y, e)
-		for n := range y.E {
-			// What stands behind a place is its own, too.
-			c := y.E[n].C[:cap(y.E[n].C)]
+		// From behind, as what stands behind a place is its own, too: writing there must not reach one that is written already.
+		for n, s := range slices.Backward(y.E) {
+			c := s.C[:cap(s.C)]
 			for k := range c {
 				c[k] = 100 + n
 			}
